@@ -649,26 +649,33 @@ func TestOrdersKeepTheirArguments(t *testing.T) {
 	}
 }
 
+// overwriteEach fails if lists share memory, and returns what they were.
+func overwriteEach(t *testing.T, what string, lists [][]int) [][]int {
+	t.Helper()
+	copies := [][]int{}
+	for i := range lists {
+		copies = append(copies, slices.Clone(lists[i]))
+	}
+	for i := range lists {
+		for place := range lists[i] {
+			lists[i][place] = -1 - i
+		}
+		_ = append(lists[i], -100)
+	}
+	for i := range lists {
+		if len(lists[i]) > 0 && (slices.Max(lists[i]) != -1-i || slices.Min(lists[i]) != -1-i) {
+			t.Fatal("results share memory:", what, lists)
+		}
+	}
+	return copies
+}
+
 func TestOrdersShareNoMemory(t *testing.T) {
 	for _, list := range fewOrders() {
 		before := slices.Clone(list)
 		w := strings.Repeat("IO", len(list))
 		lists, told := ordersTold(list, w)
-		copies := make([][]int, len(lists))
-		for i := range lists {
-			copies[i] = slices.Clone(lists[i])
-		}
-		for i := range lists {
-			for place := range lists[i] {
-				lists[i][place] = -1 - i
-			}
-			_ = append(lists[i], -100)
-		}
-		for i := range lists {
-			if slices.Max(lists[i]) != -1-i || slices.Min(lists[i]) != -1-i {
-				t.Fatal("results share memory:", list, lists)
-			}
-		}
+		copies := overwriteEach(t, textByHand(list), lists)
 		if !slices.Equal(list, before) {
 			t.Fatal("a result shares memory with", before)
 		}

@@ -850,21 +850,7 @@ func TestPatternsShareNoMemory(t *testing.T) {
 		for k := 1; k <= 5; k++ {
 			before := slices.Clone(order)
 			lists, told := patternsTold(order, patterns, k)
-			copies := [][]int{}
-			for i := range lists {
-				copies = append(copies, slices.Clone(lists[i]))
-			}
-			for i := range lists {
-				for place := range lists[i] {
-					lists[i][place] = -1 - i
-				}
-				_ = append(lists[i], -100)
-			}
-			for i := range lists {
-				if len(lists[i]) > 0 && (slices.Max(lists[i]) != -1-i || slices.Min(lists[i]) != -1-i) {
-					t.Fatal("results share memory:", order, lists)
-				}
-			}
+			copies := overwriteEach(t, textByHand(order), lists)
 			if !slices.Equal(order, before) || !slices.EqualFunc(patterns, [][]int{{2, 1}, {2, 3, 1}, {1, 3, 2}, before}, slices.Equal) {
 				t.Fatal("a result shares memory with", before)
 			}

@@ -530,21 +530,7 @@ func TestOneStackSharesNoMemory(t *testing.T) {
 	for _, order := range ordersWithSweeps() {
 		before, w := slices.Clone(order), strings.Repeat("IO", len(order))
 		lists, told := oneStackTold(order, w, 3)
-		copies := [][]int{}
-		for i := range lists {
-			copies = append(copies, slices.Clone(lists[i]))
-		}
-		for i := range lists {
-			for place := range lists[i] {
-				lists[i][place] = -1 - i
-			}
-			_ = append(lists[i], -100)
-		}
-		for i := range lists {
-			if slices.Max(lists[i]) != -1-i || slices.Min(lists[i]) != -1-i {
-				t.Fatal("results share memory:", order, lists)
-			}
-		}
+		copies := overwriteEach(t, textByHand(order), lists)
 		if !slices.Equal(order, before) {
 			t.Fatal("a result shares memory with", before)
 		}
