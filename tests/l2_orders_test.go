@@ -670,18 +670,22 @@ func overwriteEach(t *testing.T, what string, lists [][]int) [][]int {
 	return copies
 }
 
+// tellsTheSame reports whether the same is told again behind the lists told at first being overwritten.
+func tellsTheSame(t *testing.T, tell func() ([][]int, string)) bool {
+	t.Helper()
+	lists, told := tell()
+	copies := overwriteEach(t, told, lists)
+	again, toldAgain := tell()
+	return told == toldAgain && slices.EqualFunc(again, copies, slices.Equal)
+}
+
 func TestOrdersShareNoMemory(t *testing.T) {
 	for _, list := range fewOrders() {
 		before := slices.Clone(list)
 		w := strings.Repeat("IO", len(list))
-		lists, told := ordersTold(list, w)
-		copies := overwriteEach(t, textByHand(list), lists)
-		if !slices.Equal(list, before) {
-			t.Fatal("a result shares memory with", before)
-		}
-		again, toldAgain := ordersTold(list, w)
-		if told != toldAgain || !slices.EqualFunc(again, copies, slices.Equal) {
-			t.Fatal("results are kept:", list)
+		same := tellsTheSame(t, func() ([][]int, string) { return ordersTold(list, w) })
+		if !same || !slices.Equal(list, before) {
+			t.Fatal("results are kept, or share memory with", before)
 		}
 	}
 }
@@ -689,9 +693,7 @@ func TestOrdersShareNoMemory(t *testing.T) {
 func TestOrdersReturnTheSameForAnyArguments(t *testing.T) {
 	for _, list := range append(noOrders(), fewOrders()...) {
 		for _, w := range []string{"", "\xff", "OI", "IO", "IIOO", strings.Repeat("IO", 7), strings.Repeat("I\u00ff", 1<<10)} {
-			lists, told := ordersTold(list, w)
-			again, toldAgain := ordersTold(list, w)
-			if told != toldAgain || !slices.EqualFunc(again, lists, slices.Equal) {
+			if !tellsTheSame(t, func() ([][]int, string) { return ordersTold(list, w) }) {
 				t.Errorf("differs: %.8v, %.8q", list, w)
 			}
 		}

@@ -849,14 +849,9 @@ func TestPatternsShareNoMemory(t *testing.T) {
 		patterns := [][]int{{2, 1}, {2, 3, 1}, {1, 3, 2}, slices.Clone(order)}
 		for k := 1; k <= 5; k++ {
 			before := slices.Clone(order)
-			lists, told := patternsTold(order, patterns, k)
-			copies := overwriteEach(t, textByHand(order), lists)
-			if !slices.Equal(order, before) || !slices.EqualFunc(patterns, [][]int{{2, 1}, {2, 3, 1}, {1, 3, 2}, before}, slices.Equal) {
-				t.Fatal("a result shares memory with", before)
-			}
-			again, toldAgain := patternsTold(order, patterns, k)
-			if told != toldAgain || !slices.EqualFunc(again, copies, slices.Equal) {
-				t.Fatal("results are kept:", order)
+			same := tellsTheSame(t, func() ([][]int, string) { return patternsTold(order, patterns, k) })
+			if !same || !slices.Equal(order, before) || !slices.EqualFunc(patterns, [][]int{{2, 1}, {2, 3, 1}, {1, 3, 2}, before}, slices.Equal) {
+				t.Fatal("results are kept, or share memory with", before)
 			}
 		}
 	}
@@ -875,9 +870,7 @@ func TestPatternsReturnTheSameForAnyArguments(t *testing.T) {
 	for _, order := range append(noOrders(), fewOrders()...) {
 		for _, patterns := range [][][]int{nil, {{}}, {order}, {{1, 3, 2}, {2, 1}}, {order, order, order, order, order}, {{0}}, {upFrom1(1 << 10)}} {
 			for _, k := range []int{0, 1, 3, impl.MaxSize, impl.MaxSize + 1, math.MinInt, math.MaxInt} {
-				lists, told := patternsTold(order, patterns, k)
-				again, toldAgain := patternsTold(order, patterns, k)
-				if told != toldAgain || !slices.EqualFunc(again, lists, slices.Equal) {
+				if !tellsTheSame(t, func() ([][]int, string) { return patternsTold(order, patterns, k) }) {
 					t.Errorf("differs: %.8v, %.8v, %d", order, patterns, k)
 				}
 			}

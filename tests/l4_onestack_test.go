@@ -529,14 +529,9 @@ func TestOneStackKeepsItsArguments(t *testing.T) {
 func TestOneStackSharesNoMemory(t *testing.T) {
 	for _, order := range ordersWithSweeps() {
 		before, w := slices.Clone(order), strings.Repeat("IO", len(order))
-		lists, told := oneStackTold(order, w, 3)
-		copies := overwriteEach(t, textByHand(order), lists)
-		if !slices.Equal(order, before) {
-			t.Fatal("a result shares memory with", before)
-		}
-		again, toldAgain := oneStackTold(order, w, 3)
-		if told != toldAgain || !slices.EqualFunc(again, copies, slices.Equal) {
-			t.Fatal("results are kept:", order)
+		same := tellsTheSame(t, func() ([][]int, string) { return oneStackTold(order, w, 3) })
+		if !same || !slices.Equal(order, before) {
+			t.Fatal("results are kept, or share memory with", before)
 		}
 	}
 }
@@ -554,9 +549,7 @@ func TestOneStackReturnsTheSameForAnyArguments(t *testing.T) {
 		for k, w := range map[int]string{
 			0: "", 1: "\xff", 2: "OI", impl.MaxSize: "IIOO", impl.MaxSize + 1: strings.Repeat("IO", 7), math.MinInt: "IO", math.MaxInt: strings.Repeat("I\u00ff", 1<<10),
 		} {
-			lists, told := oneStackTold(order, w, k)
-			again, toldAgain := oneStackTold(order, w, k)
-			if told != toldAgain || !slices.EqualFunc(again, lists, slices.Equal) {
+			if !tellsTheSame(t, func() ([][]int, string) { return oneStackTold(order, w, k) }) {
 				t.Errorf("differs: %.8v, %.8q, %d", order, w, k)
 			}
 		}

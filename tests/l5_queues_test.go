@@ -673,14 +673,9 @@ func TestQueuesKeepTheirArguments(t *testing.T) {
 func TestQueuesShareNoMemory(t *testing.T) {
 	for _, order := range append(fewOrders(), smallOrders(5)...) {
 		before, rows, twin := slices.Clone(order), rowsByHand(order), twinByHand(order)
-		lists, told := queuesTold(order, rows, twin, 3)
-		copies := overwriteEach(t, textByHand(order), lists)
-		if !slices.Equal(order, before) || !slices.EqualFunc(rows, rowsByHand(before), slices.Equal) || !slices.EqualFunc(twin, twinByHand(before), slices.Equal) {
-			t.Fatal("a result shares memory with an argument:", before)
-		}
-		again, toldAgain := queuesTold(order, rows, twin, 3)
-		if told != toldAgain || !slices.EqualFunc(again, copies, slices.Equal) {
-			t.Fatal("results are kept:", order)
+		same := tellsTheSame(t, func() ([][]int, string) { return queuesTold(order, rows, twin, 3) })
+		if !same || !slices.Equal(order, before) || !slices.EqualFunc(rows, rowsByHand(before), slices.Equal) || !slices.EqualFunc(twin, twinByHand(before), slices.Equal) {
+			t.Fatal("results are kept, or share memory with an argument:", before)
 		}
 	}
 }
@@ -703,9 +698,7 @@ func TestQueuesReturnTheSameForAnyArguments(t *testing.T) {
 	for i, order := range append(noOrders(), fewOrders()...) {
 		for _, rows := range [][][]int{nil, {order}, none[i%len(none)], {{1, 2}, {3}}, allRowsOfSize[impl.MaxSize][i]} {
 			for _, k := range []int{0, 1, 3, impl.MaxQueues, impl.MaxQueues + 1, math.MinInt, math.MaxInt} {
-				lists, told := queuesTold(order, rows, [][]int{{1, 3}, {2}}, k)
-				again, toldAgain := queuesTold(order, rows, [][]int{{1, 3}, {2}}, k)
-				if told != toldAgain || !slices.EqualFunc(again, lists, slices.Equal) {
+				if !tellsTheSame(t, func() ([][]int, string) { return queuesTold(order, rows, [][]int{{1, 3}, {2}}, k) }) {
 					t.Errorf("differs: %.8v, %.8v, %d", order, rows, k)
 				}
 			}
